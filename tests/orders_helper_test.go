@@ -141,7 +141,7 @@ func peeled(p []string) []int {
 }
 
 // backwards returns a list from its end on.
-func backwards(list []int) []int {
+func backwards[T any](list []T) []T {
 	list = slices.Clone(list)
 	slices.Reverse(list)
 	return list
